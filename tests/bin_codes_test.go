@@ -114,15 +114,20 @@ func spots() []spot {
 	}
 }
 
+// around: the section with this inside, behind those that it needs.
+func (s spot) around(inside []byte) []byte {
+	var l []chunk
+	if s.number == 2 || s.number == 10 {
+		l = append(l, chunk{1, []byte("\x01\x60\x00\x00")})
+	}
+	if s.number == 10 {
+		l = append(l, chunk{3, []byte("\x01\x00")})
+	}
+	return ofChunks(append(l, chunk{s.number, inside})...)
+}
+
 func TestCodeOfBytesThatAreNotAsTheyMustBe(t *testing.T) {
 	for _, s := range spots() {
-		var around []chunk
-		if s.number == 10 {
-			around = []chunk{{1, []byte("\x01\x60\x00\x00")}, {3, []byte("\x01\x00")}}
-		}
-		if s.number == 2 {
-			around = []chunk{{1, []byte("\x01\x60\x00\x00")}}
-		}
 		for c := range 256 {
 			inside := []byte(s.inside)
 			inside[s.at] = byte(c)
@@ -130,8 +135,48 @@ func TestCodeOfBytesThatAreNotAsTheyMustBe(t *testing.T) {
 			if strings.Contains(s.right, string(inside[s.at:s.at+1])) {
 				want = 0
 			}
-			wantCode(t, "section "+impl.NumText(s.number), ofChunks(append(around, chunk{s.number, inside})...), want)
+			wantCode(t, "section "+impl.NumText(s.number), s.around(inside), want)
 		}
+	}
+}
+
+// longer: the inside with the byte at the spot as a number in count bytes. A body's own length says so too.
+func (s spot) longer(count int) []byte {
+	inside := []byte(s.inside)
+	if s.number == 10 {
+		inside[1] += byte(count - 1)
+	}
+	return slices.Concat(inside[:s.at], inPieces(int(inside[s.at]), count), inside[s.at+1:])
+}
+
+// A byte that must stand somewhere is that one byte, not a number in more of them.
+func TestCodeOfBytesThatStandAsNumbers(t *testing.T) {
+	for _, s := range spots() {
+		wantCode(t, "one byte", s.around(s.longer(1)), 0)
+		for count := 2; count <= 6; count++ {
+			wantCode(t, "section "+impl.NumText(s.number), s.around(s.longer(count)), 3)
+		}
+	}
+	wantCode(t, "Kind", ofChunks(chunk{7, []byte("\x01\x01f\x00\x00")}), 0)
+	wantCode(t, "Kind", ofChunks(chunk{7, []byte("\x01\x01f\x80\x00\x00")}), 3)
+}
+
+// That there is a memory, or none, is told by one byte; Pages and Most behind it may take more.
+func TestCodeOfMemoriesThatAreNumbered(t *testing.T) {
+	for _, m := range []impl.Module{{Pages: 0, Most: -1}, {Pages: 1, Most: -1}, {Pages: 2, Most: -1}, {Pages: 0, Most: 0}, {Pages: 1, Most: 2}, {Pages: 2, Most: 65536}} {
+		for size := 1; size <= 5; size++ {
+			limits := atLeast(size).memory(m)[0]
+			wantModuleOf(t, "a memory", ofChunks(chunk{5, append([]byte{1}, limits...)}), m)
+			for count := 2; count <= 6; count++ {
+				numbered := chunk{5, append(inPieces(1, count), limits...)}
+				wantCode(t, "a memory as a number", ofChunks(numbered), 3)
+				wantCode(t, "ahead of other sections", ofChunks(numbered, chunk{6, []byte{0}}, chunk{11, []byte{0}}), 3)
+			}
+		}
+	}
+	wantModuleOf(t, "no memory", ofChunks(chunk{5, []byte{0}}), noMemory())
+	for count := 2; count <= 6; count++ {
+		wantCode(t, "no memory as a number", ofChunks(chunk{5, inPieces(0, count)}), 3)
 	}
 }
 

@@ -142,14 +142,18 @@ func wantModuleParts(l []chunk) (m impl.Module, sigs []int, right bool) {
 	right = true
 	for _, s := range l {
 		c := &cursor{rest: s.inside}
-		if count := c.plain(); s.number == 5 && count > 1 {
-			c.bad = true
-		} else {
-			c.times(count, func() { sigs = append(sigs, c.part(s.number, &m)...) })
-		}
+		c.times(c.count(s.number), func() { sigs = append(sigs, c.part(s.number, &m)...) })
 		right = right && !c.bad && len(c.rest) == 0
 	}
 	return m, sigs, right
+}
+
+// count: how many parts the section says it has: of memories, a byte; of all others, a number.
+func (c *cursor) count(number int) int {
+	if number == 5 {
+		return c.is(0, 1)
+	}
+	return c.plain()
 }
 
 // part puts the next part of the section into m; it tells the Sig that stands there in section 3.

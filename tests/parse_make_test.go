@@ -79,11 +79,14 @@ func (g planner) statement(size int) tree {
 	return tDo(g.expression(size - 1))
 }
 
-func (g planner) block(size int) tree {
+func (g planner) block(size int) tree { return blockOf(g.next, size, g.statement) }
+
+// blockOf: a block of about so many nodes, of statements that are made one by one.
+func blockOf(next func(int) int, size int, statement func(size int) tree) tree {
 	t := tBlock()
 	for size > 1 {
-		part := 2 + g.next(size)
-		t.kids = append(t.kids, g.statement(part-1))
+		part := 2 + next(size)
+		t.kids = append(t.kids, statement(part-1))
 		size -= part
 	}
 	return t

@@ -38,6 +38,13 @@ func (g *lawful) local() string {
 	}
 }
 
+// declared: an NVar of a new local, which can be named from then on.
+func (g *lawful) declared(value tree) tree {
+	name := g.local()
+	g.locals = append(g.locals, name)
+	return tVar(name, value)
+}
+
 func (g *lawful) isHidden(name string) bool { return slices.Contains(g.locals, name) }
 
 // numbers: the names that stand for a number.
@@ -107,10 +114,7 @@ func (g *lawful) statement(size int) tree {
 	numbers, arrays := g.numbers(), g.arrays()
 	switch which := g.next(12); {
 	case which < 3 && len(g.locals) < 40:
-		t := tVar("", g.expression(size-1))
-		t.s = g.local()
-		g.locals = append(g.locals, t.s)
-		return t
+		return g.declared(g.expression(size - 1))
 	case which < 5 && len(numbers) > 0:
 		return tSet(pick(g.next, numbers), g.expression(size-1))
 	case which < 7 && len(arrays) > 0:

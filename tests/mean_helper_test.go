@@ -28,8 +28,8 @@ func fuelsUpTo(steps int) []int {
 
 // wantMean: what Mean tells of the text with as much fuel as it needs, and that
 // without that it begins as many nodes as there is fuel, and no more. At each
-// of these fuels the tests' own reading has to tell the same. Globals that
-// aren't told are as at first.
+// of these fuels the tests' own reading has to tell the same. What the text is
+// compiled to does so too. Globals that aren't told are as at first.
 func wantMean(t *testing.T, s string, in []int, want impl.Result) impl.Source {
 	t.Helper()
 	p := sourceOf(t, s)
@@ -51,6 +51,7 @@ func wantMean(t *testing.T, s string, in []int, want impl.Result) impl.Source {
 			t.Errorf("Mean with %v and fuel %d, where %d would be enough, is %+v, of %.400s", in, fuel, want.Steps, got, s)
 		}
 	}
+	wantModuleDoes(t, s, p, in)
 	return p
 }
 
